@@ -14,10 +14,7 @@ func stepPlain(l impl.Layout, s impl.State, e impl.Event) impl.Done {
 	code := 0
 	switch e.Op {
 	case 1, 2:
-		from, to := l.Counters[e.Of].From, l.Counters[e.Of].To
-		if e.Dir == -1 {
-			from, to = to, from
-		}
+		from, to := sidesPlain(l, e)
 		if s.Dead[e.Of] {
 			code = 2
 			break
@@ -51,6 +48,15 @@ func stepPlain(l impl.Layout, s impl.State, e impl.Event) impl.Done {
 		next.Sections[i].Told = toldPlain(l, next, i)
 	}
 	return impl.Done{Code: code, State: next}
+}
+
+// sidesPlain are where one comes from and where it goes: of Dir -1 From and To are exchanged.
+func sidesPlain(l impl.Layout, e impl.Event) (from, to int) {
+	from, to = l.Counters[e.Of].From, l.Counters[e.Of].To
+	if e.Dir == -1 {
+		from, to = to, from
+	}
+	return from, to
 }
 
 func countPlain(x *impl.Section, way int) {

@@ -127,19 +127,25 @@ func TestRunEventsThatAreNone(t *testing.T) {
 	}
 }
 
-func TestRunOfNothing(t *testing.T) {
+// answersNothing asks a function for the cases in which Run has no answer, and without events.
+func answersNothing[T any](t *testing.T, answer func(l impl.Layout, events []impl.Event) []T) {
+	t.Helper()
 	for name, l := range wrongLayouts() {
 		for _, events := range [][]impl.Event{nil, passes(0), {{}}, {reset(0)}, make([]impl.Event, 2001)} {
-			if got := impl.Run(l, events); len(got) != 0 {
+			if got := answer(l, events); len(got) != 0 {
 				t.Errorf("%s: %v", name, got)
 			}
 		}
 	}
-	for _, events := range [][]impl.Event{nil, {}} {
-		if got := impl.Run(row(2), events); len(got) != 0 {
-			t.Errorf("no events: %v", got)
+	for _, events := range [][]impl.Event{nil, {}, make([]impl.Event, 2001)} {
+		if got := answer(row(2), events); len(got) != 0 {
+			t.Errorf("%d events: %v", len(events), got)
 		}
 	}
+}
+
+func TestRunOfNothing(t *testing.T) {
+	answersNothing(t, impl.Run)
 }
 
 func TestRunMostEvents(t *testing.T) {
